@@ -1,0 +1,101 @@
+package tests
+
+import (
+	"slices"
+	"testing"
+)
+
+// mark stands in all memory that a call must not touch.
+const mark = -77
+
+// withRoom copies lists into slices with marked room behind their numbers, the
+// outer slice too, so that an append to one of them is seen.
+func withRoom(given [][]int) [][]int {
+	out := make([][]int, len(given), len(given)+2)
+	for i, list := range given {
+		room := make([]int, len(list)+4)
+		copy(room, list)
+		for k := len(list); k < len(room); k++ {
+			room[k] = mark
+		}
+		out[i] = room[:len(list)]
+	}
+	full := out[:cap(out)]
+	for i := len(given); i < len(full); i++ {
+		full[i] = []int{mark}
+	}
+	return out
+}
+
+// whole copies lists together with what is in the room behind them.
+func whole(given [][]int) [][]int {
+	var out [][]int
+	for _, list := range given[:cap(given)] {
+		out = append(out, slices.Clone(list[:cap(list)]))
+	}
+	return out
+}
+
+// copies copies lists without the room behind them.
+func copies(given [][]int) [][]int {
+	var out [][]int
+	for _, list := range given {
+		out = append(out, slices.Clone(list))
+	}
+	return out
+}
+
+func sameLists(a [][]int, b [][]int) bool {
+	return slices.EqualFunc(a, b, slices.Equal[[]int])
+}
+
+// checkApart calls a function of lists, whose results are lists too, and fails
+// the test if the call changes what it was given, if a result shares memory
+// with an argument or with another result, or if the next call is another one
+// because something was kept.
+func checkApart(t *testing.T, name string, given [][]int, call func(given [][]int) [][]int) {
+	t.Helper()
+	args := withRoom(given)
+	before := whole(args)
+	results := call(args)
+	want := copies(results)
+	if !sameLists(whole(args), before) {
+		t.Fatalf("%s changed its argument %v", name, given)
+	}
+	for i, list := range results {
+		fill(list, mark-1-i)
+	}
+	for i, list := range results {
+		if slices.ContainsFunc(list[:cap(list)], func(x int) bool { return x != mark-1-i }) {
+			t.Fatalf("%s of %v: two results share memory", name, given)
+		}
+	}
+	outer := results[:cap(results)]
+	for i := range outer {
+		outer[i] = []int{mark - 1}
+	}
+	if !sameLists(whole(args), before) {
+		t.Fatalf("%s of %v: a result shares memory with an argument", name, given)
+	}
+	if again := call(args); !sameLists(again, want) {
+		t.Fatalf("%s of %v returned %v and then %v", name, given, want, again)
+	}
+}
+
+// fill writes a number over a list and the room behind it.
+func fill(list []int, number int) {
+	full := list[:cap(list)]
+	for i := range full {
+		full[i] = number
+	}
+}
+
+// one makes the results of a call that returns one list.
+func one(list []int, _ bool) [][]int {
+	return [][]int{list}
+}
+
+// none makes the results of a call that returns no list.
+func none(...any) [][]int {
+	return nil
+}
