@@ -433,9 +433,9 @@ func TestFinerIntervalWhole(t *testing.T) {
 	mustCount(t, 5*5, got, ok, "FinerInterval", a, b)
 }
 
-// Rule of the document: all signs from a partition to those of an interval add up to 0, or 1 for equal ones.
+// Promise 30.
 func TestFinerSign(t *testing.T) {
-	for n := 1; n <= 5; n++ {
+	for n := 1; n <= 6; n++ {
 		for _, a := range partitions(n) {
 			for _, b := range partitions(n) {
 				sign, ok := impl.FinerSign(a, b)
@@ -450,11 +450,14 @@ func TestFinerSign(t *testing.T) {
 			}
 		}
 	}
-	all := partitions(6)
-	for i, a := range all {
-		checkSigns(t, a, oneBlock(6))
-		checkSigns(t, inOrder(6), a)
-		checkSigns(t, meetOf(a, all[(i*31+5)%len(all)]), a)
+	// The document's rule for signs holds for more things too.
+	for _, n := range []int{7, most} {
+		all := partitions(n)
+		for i := 0; i < len(all); i += 211 {
+			checkSigns(t, all[i], oneBlock(n))
+			checkSigns(t, inOrder(n), all[i])
+			checkSigns(t, meetOf(all[i], all[(i*31+5)%len(all)]), all[i])
+		}
 	}
 	wrongPairs(func(a []int, b []int) {
 		got, ok := impl.FinerSign(a, b)

@@ -70,6 +70,7 @@ func checkApart(t *testing.T, name string, given [][]int, call func(given [][]in
 			t.Fatalf("%s of %v: two results share memory", name, given)
 		}
 	}
+	filled := slices.Clone(results)
 	outer := results[:cap(results)]
 	for i := range outer {
 		outer[i] = []int{mark - 1}
@@ -79,6 +80,23 @@ func checkApart(t *testing.T, name string, given [][]int, call func(given [][]in
 	}
 	if again := call(args); !sameLists(again, want) {
 		t.Fatalf("%s of %v returned %v and then %v", name, given, want, again)
+	}
+	checkLeft(t, name, given, filled, outer)
+}
+
+// checkLeft fails the test if a later call wrote over what checkApart put into
+// the lists of the call ahead of it, or into the slice of these lists.
+func checkLeft(t *testing.T, name string, given [][]int, filled [][]int, outer [][]int) {
+	t.Helper()
+	for i, list := range filled {
+		if slices.ContainsFunc(list[:cap(list)], func(x int) bool { return x != mark-1-i }) {
+			t.Fatalf("%s of %v: the results of two calls share memory", name, given)
+		}
+	}
+	for _, list := range outer {
+		if !slices.Equal(list, []int{mark - 1}) {
+			t.Fatalf("%s of %v: the results of two calls share memory", name, given)
+		}
 	}
 }
 
@@ -98,4 +116,35 @@ func one(list []int, _ bool) [][]int {
 // none makes the results of a call that returns no list.
 func none(...any) [][]int {
 	return nil
+}
+
+// question is one call of a function, whose answer is all its results as text.
+type question struct {
+	name string
+	ask  func() string
+}
+
+// checkAgain asks all questions, each one again at once and then after others in
+// several orders, and fails the test if an answer is another one than at first.
+func checkAgain(t *testing.T, all []question) {
+	t.Helper()
+	first := make([]string, len(all))
+	for i, q := range all {
+		first[i] = q.ask()
+		if answer := q.ask(); answer != first[i] {
+			t.Fatalf("%s returned %s and then %s", q.name, first[i], answer)
+		}
+	}
+	again := func(i int) {
+		if answer := all[i].ask(); answer != first[i] {
+			t.Fatalf("%s returned %s and, after other questions, %s", all[i].name, first[i], answer)
+		}
+	}
+	for i := len(all) - 1; i >= 0; i-- {
+		again(i)
+	}
+	for i := range all {
+		again((i*i + 7) % len(all))
+		again((i*131 + 5) % len(all))
+	}
 }

@@ -1,6 +1,7 @@
 package tests
 
 import (
+	"fmt"
 	"math"
 	"slices"
 	"testing"
@@ -567,56 +568,27 @@ func TestNumberMapsCounted(t *testing.T) {
 	}
 }
 
-// question is one call of this chapter.
-type question struct {
-	name string
-	ask  func() (int, bool)
-}
-
-// questions returns calls of all functions of this chapter, wrong ones among them.
-func questions() []question {
+// numberQuestions returns calls of all functions of this chapter, wrong ones among them.
+func numberQuestions() []question {
 	var out []question
 	asked := append(numberFunctions(), numberFunction{"NumberPower", impl.NumberPower})
 	for n := -1; n <= mostNumber+1; n++ {
 		for k := -1; k <= mostNumber+1; k++ {
 			for _, f := range asked {
-				out = append(out, question{f.name, func() (int, bool) { return f.ask(n, k) }})
+				out = append(out, question{f.name, func() string { return fmt.Sprint(f.ask(n, k)) }})
 			}
 		}
-		out = append(out, question{"NumberAll", func() (int, bool) { return impl.NumberAll(n) }})
+		out = append(out, question{"NumberAll", func() string { return fmt.Sprint(impl.NumberAll(n)) }})
 	}
 	for _, list := range append(allTypes(), wrongTypes()...) {
-		out = append(out, question{"NumberType", func() (int, bool) { return impl.NumberType(list) }})
+		out = append(out, question{"NumberType", func() string { return fmt.Sprint(impl.NumberType(list)) }})
 	}
 	return out
 }
 
 // Rule of the document: functions keep no state between calls, so that the same question has the same answer.
 func TestNumbersAgain(t *testing.T) {
-	type answer struct {
-		number int
-		ok     bool
-	}
-	all := questions()
-	first := make([]answer, len(all))
-	for i, q := range all {
-		first[i].number, first[i].ok = q.ask()
-		if number, ok := q.ask(); (answer{number, ok}) != first[i] {
-			t.Fatalf("%s returned %v and then %d, %v", q.name, first[i], number, ok)
-		}
-	}
-	again := func(i int) {
-		if number, ok := all[i].ask(); (answer{number, ok}) != first[i] {
-			t.Fatalf("%s returned %v and, after other questions, %d, %v", all[i].name, first[i], number, ok)
-		}
-	}
-	for i := len(all) - 1; i >= 0; i-- {
-		again(i)
-	}
-	for i := range all {
-		again((i*i + 7) % len(all))
-		again((i*131 + 5) % len(all))
-	}
+	checkAgain(t, numberQuestions())
 }
 
 // Rule of the document: arguments stay as they were, and only the numbers of a list are asked.
