@@ -371,7 +371,8 @@ func TestListOneThing(t *testing.T) {
 	mustCount(t, 1, open, ok, "ListOpen", 1, alone)
 }
 
-// listQuestions returns calls of all functions of this chapter, wrong ones among them.
+// listQuestions returns calls of all functions of this chapter, and of
+// FinerSign, wrong ones among them.
 func listQuestions() []question {
 	var out []question
 	put := func(name string, ask func() string) {
@@ -394,6 +395,9 @@ func listQuestions() []question {
 		put("ListPlace", func() string { return fmt.Sprint(impl.ListPlace(a)) })
 		put("ListNext", func() string { return fmt.Sprint(impl.ListNext(a)) })
 		put("ListBefore", func() string { return fmt.Sprint(impl.ListBefore(a)) })
+		for _, b := range [][]int{oneBlock(3), inOrder(4), oneBlock(5), oneBlock(most), a} {
+			put("FinerSign", func() string { return fmt.Sprint(impl.FinerSign(a, b)) })
+		}
 	}
 	return out
 }
