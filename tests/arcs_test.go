@@ -82,6 +82,17 @@ func twoThings(n int) [][]int {
 	return out
 }
 
+// chosenOf returns those of some lists whose bits a set has, in their order.
+func chosenOf(all [][]int, set int) [][]int {
+	var out [][]int
+	for i, list := range all {
+		if set>>i&1 == 1 {
+			out = append(out, list)
+		}
+	}
+	return out
+}
+
 // areArcs reports whether no two of some lists of two things begin alike or end alike.
 func areArcs(told [][]int) bool {
 	for i, x := range told {
@@ -226,12 +237,7 @@ func TestArcPart(t *testing.T) {
 		two := twoThings(n)
 		succeeded := 0
 		for set := range 1 << len(two) {
-			var told [][]int
-			for i, arc := range two {
-				if set>>i&1 == 1 {
-					told = append(told, arc)
-				}
-			}
+			told := chosenOf(two, set)
 			if !areArcs(told) {
 				got, ok := impl.ArcPart(n, told)
 				mustFail(t, got, ok, "ArcPart", n, told)
